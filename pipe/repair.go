@@ -17,13 +17,13 @@ type crew struct {
 }
 
 // late is the panic of an order in which a loop is repaired after it is due.
-type late struct{ loop int }
+type late struct{}
 
 // repair returns the crew after its next repair. It gives up if that comes too late.
 func (l *looked) repair(c crew, loop int) crew {
 	c.hour += l.Ways[c.at][loop+1] + l.Loops[loop].Fix.High
 	if c.hour > l.due[loop] {
-		panic(late{loop})
+		panic(late{})
 	}
 	c.left &^= 1 << loop
 	c.at = loop + 1
